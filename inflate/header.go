@@ -62,10 +62,18 @@ func (h *header) order(in *bits.Reader) (e api.Errno) {
 	return e
 }
 
-// say reads a symbol of the code of lengths.
-func (h *header) say(in *bits.Reader) (e api.Errno) {
-	h.symbol, e = h.table.Read(in)
-	return e
+// say reads a symbol of the code of lengths. That the one ahead is meant where
+// there is none is seen by it alone, whether the bits behind it have come or not.
+func (h *header) say(in *bits.Reader) api.Errno {
+	symbol, e := h.table.Read(in)
+	if e != api.OK {
+		return e
+	}
+	if symbol == again && h.n == 0 {
+		return api.ErrForm
+	}
+	h.symbol = symbol
+	return api.OK
 }
 
 // repeat reads how often the symbol is meant, and lays the lengths.
@@ -83,29 +91,26 @@ func (h *header) repeat(in *bits.Reader) api.Errno {
 	if !ok {
 		return api.ErrShort
 	}
-	length, ok := h.meant()
 	past := h.n + least + int(v)
-	if !ok || past > h.literals+h.distances {
+	if past > h.literals+h.distances {
 		return api.ErrForm
 	}
+	length := h.meant()
 	for ; h.n < past; h.n++ {
 		h.lengths[h.n] = length
 	}
 	return api.OK
 }
 
-// meant tells the length that the symbol says; false, if it is the one ahead, and there is none.
-func (h *header) meant() (byte, bool) {
+// meant tells the length that the symbol says.
+func (h *header) meant() byte {
 	switch h.symbol {
 	case again:
-		if h.n == 0 {
-			return 0, false
-		}
-		return h.lengths[h.n-1], true
+		return h.lengths[h.n-1]
 	case zeros, manyZeros:
-		return 0, true
+		return 0
 	}
-	return byte(h.symbol), true
+	return byte(h.symbol)
 }
 
 // whole tells whether all lengths came.

@@ -402,9 +402,6 @@ func TestP501Repeats(t *testing.T) {
 		return append([]said{{18, 127, 7}, {18, 107, 7}}, all...)
 	}
 	zero, one := said{0, 0, 0}, said{1, 0, 0}
-	for more := range 4 {
-		faulty(t, "none ahead", text(1, said{16, more, 2}), plenty, api.ErrForm)
-	}
 	for _, c := range []struct {
 		what      string
 		distances int // just as many as there are; one fewer, and the last repeat goes beyond
@@ -424,6 +421,50 @@ func TestP501Repeats(t *testing.T) {
 	faulty(t, "0 138 times, beyond", text(30, is(one, said{18, 127, 7})...), plenty, api.ErrForm)
 	right(t, "no repeat at the end", text(2, is(one, one, one)...)+"0", nil)
 	faulty(t, "1 too often", text(4, is(one, one, said{16, 0, 2})...), plenty, api.ErrForm)
+}
+
+// fill is these numbers, and 0 behind them: n in all.
+func fill(n int, these ...int) []int { return append(these, make([]int, n-len(these))...) }
+
+func TestP501RepeatsWithNoneAhead(t *testing.T) {
+	for n := 8; n <= 19; n++ { // the symbol ends at each bit of a byte, so none to seven are there behind it
+		for _, c := range []struct {
+			what, code string
+			own        []int
+		}{
+			{"none ahead", "0", []int{1, 1}},
+			{"none ahead, two bits", "10", []int{2, 1, 2}},
+			{"none ahead, seven bits", "1111110", []int{7, 7, 6, 1, 2, 3, 4, 5}},
+		} {
+			faulty(t, c.what, ownOnly(fill(n, c.own...)...)+c.code, plenty, api.ErrForm)
+		}
+	}
+	b := []byte{0x05, 0x60, 0x12, 0, 0}
+	if x := packed(ownOnly(fill(7, 1, 1)...) + "0 0"); !bytes.Equal(x, b) {
+		t.Fatalf("% x; want % x", x, b)
+	}
+	tells(t, b, 100, nil, 0, api.ErrForm)
+	tells(t, b[:4], 100, nil, 0, api.ErrShort)
+	d := decoder(t, 100)
+	for _, c := range b[:4] {
+		if out, e := d.Write([]byte{c}); len(out) != 0 || e != api.OK {
+			t.Fatalf("P502: % x, %v", out, e)
+		}
+	}
+	for _, c := range [][]byte{b[4:], nil, {0}} {
+		if out, e := d.Write(c); len(out) != 0 || e != api.ErrForm {
+			t.Errorf("P502: the byte with the symbol, and behind: % x, %v", out, e)
+		}
+		counts(t, d, false, 4, 0)
+	}
+}
+
+func TestP501RepeatsBeyondNeedTheirBits(t *testing.T) {
+	for n := 4; n <= 19; n++ { // likewise at each bit; the symbol alone, of 11 at least, is short
+		front := ownOnly(fill(n, 0, 1, 1)...) + "1" + number(127, 7) + "1" + number(107, 7) + "1"
+		faulty(t, "0 eleven times, two being left", front+number(0, 7), plenty, api.ErrForm)
+		tells(t, packed(front)[:len(bare(front))/8], plenty, nil, 0, api.ErrShort)
+	}
 }
 
 func TestP501RepeatsAcross(t *testing.T) {

@@ -202,8 +202,8 @@ func (m *model) header() (tree, tree) {
 	for len(l) < literals+distances {
 		switch symbol := m.symbol(t); symbol {
 		case 16:
+			m.bad(len(l) == 0) // the symbol alone says so
 			n := m.number(2) + 3
-			m.bad(len(l) == 0)
 			l = append(l, slices.Repeat(l[len(l)-1:], n)...)
 		case 17:
 			l = append(l, make([]byte, m.number(3)+3)...)
